@@ -187,3 +187,63 @@ func (d *dice) trees(n int) []impl.Val {
 	}
 	return list
 }
+
+// deep is how many parts of a tree are around one another, without the program.
+func deep(v impl.Val) int {
+	n := 0
+	for _, part := range v.List {
+		n = max(n, deep(part))
+	}
+	return n + 1
+}
+
+// fits says whether a tree that was put together of trees that are ok is within all bounds, without the program.
+func fits(v impl.Val) bool {
+	inside := v.N >= -impl.ValMost && v.N <= impl.ValMost && len(v.S) <= impl.ValLong
+	return inside && many(v) <= impl.ValSize && deep(v) <= impl.ValDeep
+}
+
+// apart asks that no two lists of these trees, spare room included, lie in the same memory.
+func apart(t *testing.T, what string, trees ...impl.Val) {
+	t.Helper()
+	keyPlaces, listPlaces := map[*string]bool{}, map[*impl.Val]bool{}
+	for _, v := range trees {
+		lists(v, func(keys []string) {
+			for i := range keys {
+				if keyPlaces[&keys[i]] {
+					t.Fatalf("%s: a key lies in two lists", what)
+				}
+				keyPlaces[&keys[i]] = true
+			}
+		}, func(list []impl.Val) {
+			for i := range list {
+				if listPlaces[&list[i]] {
+					t.Fatalf("%s: a tree lies in two lists", what)
+				}
+				listPlaces[&list[i]] = true
+			}
+		})
+	}
+}
+
+// lists calls with each list of a tree, spare room included.
+func lists(v impl.Val, keys func([]string), list func([]impl.Val)) {
+	for _, part := range v.List {
+		lists(part, keys, list)
+	}
+	keys(v.Keys[:cap(v.Keys)])
+	list(v.List[:cap(v.List)])
+}
+
+// roomy is a tree in lists with spare room in which something lies.
+func roomy(v impl.Val) impl.Val {
+	list := make([]impl.Val, 0, len(v.List)+2)
+	for _, part := range v.List {
+		list = append(list, roomy(part))
+	}
+	keys := append(make([]string, 0, len(v.Keys)+2), v.Keys...)
+	copy(list[len(list):cap(list)], []impl.Val{num(77), str("left")})
+	copy(keys[len(keys):cap(keys)], []string{"left", "behind"})
+	v.List, v.Keys = list, keys
+	return v
+}

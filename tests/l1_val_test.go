@@ -343,7 +343,8 @@ func TestValOfTheLongestText(t *testing.T) {
 	}
 }
 
-func TestValWrongTrees(t *testing.T) {
+// wrongTrees is trees that are not ok, by what is wrong with them.
+func wrongTrees() map[string]impl.Val {
 	one := []impl.Val{{}}
 	key := []string{"a"}
 	wrong := map[string]impl.Val{
@@ -383,7 +384,11 @@ func TestValWrongTrees(t *testing.T) {
 		wrong["text "+s] = str(s)
 		wrong["key "+s] = keyed([]string{s}, num(0))
 	}
-	for what, v := range wrong {
+	return wrong
+}
+
+func TestValWrongTrees(t *testing.T) {
+	for what, v := range wrongTrees() {
 		wantNoTree(t, what, v)
 		wantNoTree(t, what+" in a row", row(num(1), v))
 		wantNoTree(t, what+" by a key", keyed([]string{"a", "b"}, v, num(1)))
@@ -393,14 +398,16 @@ func TestValWrongTrees(t *testing.T) {
 	}
 }
 
-func TestValOfListsThatHoldThemselves(t *testing.T) {
-	round := func(many int) impl.Val {
-		list := make([]impl.Val, many)
-		for i := range list {
-			list[i] = impl.Val{Kind: impl.ValRow, List: list}
-		}
-		return impl.Val{Kind: impl.ValRow, List: list}
+// round is a row of so many rows each of which is that row.
+func round(many int) impl.Val {
+	list := make([]impl.Val, many)
+	for i := range list {
+		list[i] = impl.Val{Kind: impl.ValRow, List: list}
 	}
+	return impl.Val{Kind: impl.ValRow, List: list}
+}
+
+func TestValOfListsThatHoldThemselves(t *testing.T) {
 	other := round(2)
 	other.List[1] = num(1)
 	for _, v := range []impl.Val{round(1), round(2), round(100), other} {
@@ -460,19 +467,6 @@ func TestValOfListsThatAreThereTwice(t *testing.T) {
 	}
 }
 
-// roomy is a tree in lists with spare room in which something lies.
-func roomy(v impl.Val) impl.Val {
-	list := make([]impl.Val, 0, len(v.List)+2)
-	for _, part := range v.List {
-		list = append(list, roomy(part))
-	}
-	keys := append(make([]string, 0, len(v.Keys)+2), v.Keys...)
-	copy(list[len(list):cap(list)], []impl.Val{num(77), str("left")})
-	copy(keys[len(keys):cap(keys)], []string{"left", "behind"})
-	v.List, v.Keys = list, keys
-	return v
-}
-
 func TestValWritesIntoNoArgument(t *testing.T) {
 	d := dice(4)
 	wrong := []impl.Val{keyed([]string{"b", "a"}, num(1), num(2)), row(wide(60)), {Kind: 9, List: []impl.Val{str("A")}}}
@@ -491,38 +485,12 @@ func TestValWritesIntoNoArgument(t *testing.T) {
 	}
 }
 
-// lists calls with each list of a tree, spare room included.
-func lists(v impl.Val, keys func([]string), list func([]impl.Val)) {
-	for _, part := range v.List {
-		lists(part, keys, list)
-	}
-	keys(v.Keys[:cap(v.Keys)])
-	list(v.List[:cap(v.List)])
-}
-
 func TestValReadsIntoNewMemory(t *testing.T) {
 	d := dice(5)
 	for _, v := range d.trees(300) {
 		text := impl.ValText(v)
 		first, second := read(t, text), read(t, text)
-		keyPlaces, listPlaces := map[*string]bool{}, map[*impl.Val]bool{}
-		for _, back := range []impl.Val{first, second} {
-			lists(back, func(keys []string) {
-				for i := range keys {
-					if keyPlaces[&keys[i]] {
-						t.Fatalf("%s: a key lies in two lists", text)
-					}
-					keyPlaces[&keys[i]] = true
-				}
-			}, func(list []impl.Val) {
-				for i := range list {
-					if listPlaces[&list[i]] {
-						t.Fatalf("%s: a tree lies in two lists", text)
-					}
-					listPlaces[&list[i]] = true
-				}
-			})
-		}
+		apart(t, text, first, second)
 		lists(first, func(keys []string) {
 			for i := range keys {
 				keys[i] = "X"
