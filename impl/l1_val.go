@@ -356,9 +356,15 @@ func leafOf(word string) (tree, bool) {
 			return bareTree{kind}, true
 		}
 	}
+	n, ok := numberOf(word)
+	return numTree{n}, ok && numOk(n)
+}
+
+// numberOf is the number of which a word is the text.
+func numberOf(word string) (int, bool) {
 	n, err := strconv.Atoi(word)
 	// Written again, a number with needless zeros is another text.
-	return numTree{n}, err == nil && numOk(n) && strconv.Itoa(n) == word
+	return n, err == nil && strconv.Itoa(n) == word
 }
 
 // listPair is two lists, held against each other, by where they lie.
