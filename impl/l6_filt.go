@@ -132,6 +132,7 @@ type filter interface {
 	kids() []filter
 	onlyLooks() bool
 	filt() Filt
+	goOn(fuel *tank, v Val) ([]waiting, error)
 }
 
 type bareFilter struct{ kind int }
