@@ -133,6 +133,9 @@ type filter interface {
 	onlyLooks() bool
 	filt() Filt
 	goOn(fuel *tank, v Val) ([]waiting, error)
+	shorter() filter
+	sure() bool
+	tells() int
 }
 
 type bareFilter struct{ kind int }
